@@ -82,6 +82,13 @@ func TestReaderEdges(t *testing.T) {
 	if n := field.New("\xff\xff\xff\x7f").Var(); n != 1<<28-1 {
 		t.Errorf("Var() = %d", n)
 	}
+	r := field.New("ab")
+	if r.U8(); told(r.Done()) != "malformed, reason 129, at 1" {
+		t.Errorf("Done() with one byte left = %q", told(r.Done()))
+	}
+	if r.U8(); r.Done() != nil {
+		t.Errorf("Done() at the end = %v", r.Done())
+	}
 	if s := field.New("\xff\xff" + long(65536)).Text(); s != long(65535) {
 		t.Errorf("Text() has %d bytes", len(s))
 	}
