@@ -225,6 +225,34 @@ func TestEncodeRefuses(t *testing.T) {
 	notEncoded(t, api.Packet{HasUser: true, HasPass: true, Pass: long}, large+"15")
 }
 
+// Co1: the properties are those of a Connect, and of a will, and no others.
+func TestPlaces(t *testing.T) {
+	for id, n := range map[int]int{17: 1, 23: 1, 25: 0, 33: 1, 34: 0, 39: 1} {
+		p := api.Packet{Kind: 1, Props: []api.Prop{{Id: id, N: n}}}
+		f, err := connect.Encode(p)
+		if err != nil {
+			t.Errorf("with property %d: %v", id, err)
+		}
+		decoded(t, f.First, f.Body, p, "")
+		notEncoded(t, api.Packet{Will: api.Last{Has: true, Props: p.Props}}, "malformed, reason 129, at 0")
+	}
+	for id, n := range map[int]int{1: 1, 2: 0, 24: 0} {
+		p := api.Packet{Kind: 1, Will: api.Last{Has: true, Props: []api.Prop{{Id: id, N: n}}}}
+		f, err := connect.Encode(p)
+		if err != nil {
+			t.Errorf("with property %d of the will: %v", id, err)
+		}
+		decoded(t, f.First, f.Body, p, "")
+		notEncoded(t, api.Packet{Props: p.Will.Props}, "malformed, reason 129, at 0")
+	}
+	for _, id := range []int{11, 18, 19, 28, 31, 35, 36} {
+		notEncoded(t, api.Packet{Props: []api.Prop{{Id: id, N: 1}}}, "malformed, reason 129, at 0")
+		notEncoded(t, api.Packet{Will: api.Last{Has: true, Props: []api.Prop{{Id: id, N: 1}}}}, "malformed, reason 129, at 0")
+	}
+	refused(t, start+"\x00\x00\x00\x02\x24\x01\x00\x00", "malformed, reason 129, at 11")
+	refused(t, start+"\x04\x00\x00\x00\x00\x00\x02\x17\x01\x00\x00\x00\x00", "malformed, reason 129, at 14")
+}
+
 // random is some Connect.
 func random(rnd *rand.Rand) api.Packet {
 	pick := func(l ...string) string { return l[rnd.Intn(len(l))] }
