@@ -36,3 +36,21 @@ func TestFrame(t *testing.T) {
 		t.Errorf("decoded %v", asked)
 	}
 }
+
+// Id reads a number that is not 0, and tells its place if it is.
+func TestId(t *testing.T) {
+	for s, want := range map[string]string{
+		"\x01\x02": "", "\x00\x01": "", "\xff\xff": "",
+		"\x00\x00": "against the protocol, reason 130, at 3", "": "too few bytes, reason 129, at 3", "\x01": "too few bytes, reason 129, at 4",
+	} {
+		r := field.New("abc" + s)
+		r.Raw(3)
+		id, err := body.Id(r)
+		if want == "" && (err != nil || id != int(s[0])<<8+int(s[1])) {
+			t.Errorf("Id of % x = %d, %v", s, id, err)
+		}
+		if want != "" && (id != 0 || err == nil || err.Error() != want) {
+			t.Errorf("Id of % x = %d, %v; want %s", s, id, err, want)
+		}
+	}
+}
