@@ -54,3 +54,64 @@ func TestId(t *testing.T) {
 		}
 	}
 }
+
+// What is written of a reason and properties is read back, and nothing is written that is not needed.
+func TestReason(t *testing.T) {
+	pair := []api.Prop{{Id: 38}}
+	for _, x := range []struct {
+		p    api.Packet
+		want string
+	}{
+		{api.Packet{Kind: api.Puback}, ""},
+		{api.Packet{Kind: api.Puback, Reason: 0x10}, "\x10"},
+		{api.Packet{Kind: api.Puback, Props: pair}, "\x00\x05\x26\x00\x00\x00\x00"},
+		{api.Packet{Kind: api.Auth, Reason: 0x18, Props: pair}, "\x18\x05\x26\x00\x00\x00\x00"},
+	} {
+		var w field.Writer
+		if err := body.PutReason(&w, x.p); err != nil {
+			t.Errorf("%+v: %v", x.p, err)
+		}
+		s, err := w.Bytes()
+		if s != x.want || err != nil {
+			t.Errorf("%+v: % x, %v", x.p, s, err)
+		}
+		code, props, err := body.TakeReason(field.New(s), x.p.Kind)
+		if code != x.p.Reason || len(props) != len(x.p.Props) || err != nil {
+			t.Errorf("% x: %d, %v, %v", s, code, props, err)
+		}
+	}
+	var w field.Writer
+	if err := body.PutReason(&w, api.Packet{Kind: api.Puback, Props: []api.Prop{{Id: 4}}}); !errors.Is(err, api.ErrMalformed) {
+		t.Errorf("a property that is none: %v", err)
+	}
+	for _, s := range []string{"\x18", "\x10\x05", "\x10\x00\x00", "\x10\x02\x01\x01"} {
+		if code, props, err := body.TakeReason(field.New(s), api.Puback); code != 0 || props != nil || err == nil {
+			t.Errorf("% x: %d, %v, %v", s, code, props, err)
+		}
+	}
+}
+
+// Parts of any type are read one by one; a part's error is that of all.
+func TestParts(t *testing.T) {
+	letter := func(r *field.Reader) (string, error) {
+		if s := r.Raw(1); s != "!" {
+			return s, nil
+		}
+		return "", api.ErrState
+	}
+	if l, err := body.Parts(field.New("abc"), letter); len(l) != 3 || l[0]+l[1]+l[2] != "abc" || err != nil {
+		t.Errorf("Parts = %q, %v", l, err)
+	}
+	if l, err := body.Parts(field.New("ab!"), letter); l != nil || !errors.Is(err, api.ErrState) {
+		t.Errorf("Parts up to an error = %q, %v", l, err)
+	}
+	if l, err := body.Parts(field.New(""), letter); l != nil || !errors.Is(err, api.ErrProtocol) {
+		t.Errorf("Parts of nothing = %q, %v", l, err)
+	}
+	if l, err := body.TakeCodes(field.New("\x00\x11\x8f"), api.Unsuback); len(l) != 3 || l[0] != 0 || l[1] != 0x11 || l[2] != 0x8f || err != nil {
+		t.Errorf("TakeCodes = %v, %v", l, err)
+	}
+	if l, err := body.TakeCodes(field.New("\x00\x01"), api.Unsuback); l != nil || !errors.Is(err, api.ErrMalformed) {
+		t.Errorf("TakeCodes of a wrong one = %v, %v", l, err)
+	}
+}

@@ -84,7 +84,7 @@ func TestPutRefuses(t *testing.T) {
 
 // Fm1: the longest body, and longer ones; the first byte precedes its length.
 func TestPutLongest(t *testing.T) {
-	s := string(make([]byte, 1<<28+1))
+	s := strings.Repeat("x", 1<<28+1)
 	if p, err := frame.Put(api.Frame{First: 0x30, Body: s[:1<<28-1]}); len(p) != 1<<28+4 || p[:5] != "\x30\xff\xff\xff\x7f" || err != nil {
 		t.Errorf("Put of the longest = %d bytes, %v", len(p), err)
 	}
