@@ -258,3 +258,32 @@ func TestReadBack(t *testing.T) {
 		}
 	}
 }
+
+// Pk3: whatever bytes come, what is decoded is encoded as bytes that are decoded as the same.
+func TestAnyBytes(t *testing.T) {
+	rnd := rand.New(rand.NewSource(16))
+	l := samples()
+	for range 100000 {
+		x := l[rnd.Intn(len(l))]
+		f := frameOf(x.s)
+		b := []byte(f.Body)
+		for range rnd.Intn(3) {
+			if len(b) > 0 {
+				b[rnd.Intn(len(b))] = byte(rnd.Intn(256) >> rnd.Intn(8))
+			}
+		}
+		f.Body = string(b) + strings.Repeat("\x00", rnd.Intn(8)/7)
+		p, err := packet.Decode(f)
+		if err != nil {
+			if !same(p, api.Packet{}) {
+				t.Fatalf("Decode(%#x, % x) = %+v besides %v", f.First, f.Body, p, err)
+			}
+			continue
+		}
+		s, err := packet.Encode(p)
+		if err != nil || p.Kind != f.First>>4 {
+			t.Fatalf("Decode(%#x, % x) = %+v, encoded with %v", f.First, f.Body, p, err)
+		}
+		all(t, s, 1000, []api.Packet{p}, "")
+	}
+}
