@@ -200,6 +200,8 @@ func left(t *testing.T, n, now, want int) {
 
 // Qu2: how long a message may wait yet is its last property.
 func TestLeft(t *testing.T) {
+	left(t, 1, 0, 1)
+	left(t, 1, 1, -2)
 	left(t, 5, 0, 5)
 	left(t, 5, 4, 1)
 	left(t, 5, 5, -2)
