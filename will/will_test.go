@@ -53,8 +53,8 @@ func TestUntil(t *testing.T) {
 	const most, latest = 1<<32 - 1, 1 << 40
 	for _, x := range []struct{ now, n, want int }{
 		{0, 0, 0}, {0, 1, 1}, {5, 0, 5}, {5, 7, 12}, {5, most, 5 + most}, {5, most + 1, 5 + most}, {5, math.MaxInt, 5 + most}, {5, -1, 5}, {5, math.MinInt, 5},
-		{-1, 3, 3}, {math.MinInt, 3, 3}, {-1, most, most}, {latest, 0, latest}, {latest, 1, latest}, {latest - 5, 4, latest - 1}, {latest - 5, 5, latest}, {latest - 5, 6, latest},
-		{latest + 1, 0, latest}, {math.MaxInt, math.MaxInt, latest}, {math.MaxInt, math.MinInt, latest}, {latest - most, most, latest}, {latest - most - 1, most + 1, latest - 1},
+		{-1, 3, 3}, {math.MinInt, 3, 3}, {-1, most, most}, {latest, 0, latest}, {latest, 1, latest + 1}, {latest - 5, 4, latest - 1}, {latest - 5, 5, latest}, {latest - 5, 6, latest + 1},
+		{latest + 1, 0, latest}, {latest + 1, 10, latest + 10}, {1 << 60, 10, latest + 10}, {math.MaxInt, math.MaxInt, latest + most}, {math.MaxInt, math.MinInt, latest}, {latest - most, most, latest}, {latest - most - 1, most + 1, latest - 1},
 	} {
 		props := []api.Prop{{Id: 38}, {Id: 2, N: x.n}, {Id: 2, N: 1}}
 		if m := will.Of(api.Packet{Props: props}, "c", x.now); m.Until != x.want {
@@ -99,8 +99,8 @@ func TestAt(t *testing.T) {
 	for _, x := range []struct{ delay, expiry, now, want int }{
 		{9, 5, 0, 5}, {9, 5, 100, 105}, {5, 9, 100, 105}, {0, 9, 100, 100}, {9, 0, 100, 100}, {9, 9, 100, 109}, {9, 10, 100, 109},
 		{9, -1, 100, 100}, {-1, 9, 100, 100}, {math.MinInt, math.MinInt, 100, 100}, {most, most, 100, 100 + most}, {most + 1, most + 1, 100, 100 + most}, {math.MaxInt, math.MaxInt, 100, 100 + most},
-		{most, most - 1, 100, 99 + most}, {9, 9, -1, 9}, {9, 9, math.MinInt, 9}, {0, 0, -1, 0}, {9, 9, latest, latest}, {9, 9, latest - 9, latest}, {9, 9, latest - 10, latest - 1}, {9, 9, latest - 8, latest},
-		{0, 0, latest + 1, latest}, {math.MaxInt, math.MaxInt, math.MaxInt, latest},
+		{most, most - 1, 100, 99 + most}, {9, 9, -1, 9}, {9, 9, math.MinInt, 9}, {0, 0, -1, 0}, {9, 9, latest, latest + 9}, {9, 9, latest - 9, latest}, {9, 9, latest - 10, latest - 1}, {9, 9, latest - 8, latest + 1},
+		{0, 0, latest + 1, latest}, {6, 100, 1 << 60, latest + 6}, {6, 100, latest - 1, latest + 5}, {9, -9, latest + 1, latest}, {math.MaxInt, math.MaxInt, math.MaxInt, latest + most},
 	} {
 		if at := will.At(delayed(x.delay), x.expiry, x.now); at != x.want {
 			t.Errorf("At(%d, %d, %d) = %d, want %d", x.delay, x.expiry, x.now, at, x.want)
@@ -139,13 +139,13 @@ func TestListsAreNew(t *testing.T) {
 func TestTimes(t *testing.T) {
 	rnd := rand.New(rand.NewSource(29))
 	for range 5000 {
-		now, delay, expiry := rnd.Intn(1<<40), rnd.Intn(1<<rnd.Intn(33)), rnd.Intn(1<<rnd.Intn(33))
+		now, delay, expiry := rnd.Intn(1<<40+1), rnd.Intn(1<<rnd.Intn(33)), rnd.Intn(1<<rnd.Intn(33))
 		at := will.At(delayed(delay), expiry, now)
-		if end := min(now+expiry, 1<<40); at < now || at > end || at != end && at != now+delay {
+		if end := now + expiry; at < now || at > end || at != end && at != now+delay {
 			t.Fatalf("a delay of %d, an expiry of %d: sent at %d, ended at %d", delay, expiry, at, now)
 		}
 		m := will.Of(api.Packet{Props: []api.Prop{{Id: 2, N: delay}}}, "c", now)
-		if m.Until != min(now+delay, 1<<40) {
+		if m.Until != now+delay {
 			t.Fatalf("at %d, to wait for %d: until %d", now, delay, m.Until)
 		}
 	}
