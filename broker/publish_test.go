@@ -6,6 +6,9 @@ import (
 	"testing"
 
 	"towncrier/api"
+	"towncrier/broker"
+	"towncrier/store"
+	"towncrier/wal"
 )
 
 // Br4: a topic may be told by an alias; one that is not valid ends the connection.
@@ -65,8 +68,12 @@ func TestNumbers(t *testing.T) {
 		{publish("t", "x", 2, 1), publish("t", "x", 1, 1)}, {publish("t", "x", 2, 1), publish("t", "x", 2, 2), publish("t", "x", 2, 3)}, {publish("t", "x", 2, 1), publish("t", "x", 2, 2), publish("t", "x", 1, 3)},
 	} {
 		r := with(t, func(c *api.Config) { c.Receive = 2 })
-		r.clients("a")
+		r.clients("a", "b")
+		r.in(1, subscribe(0, "u"))
+		r.gets(1, "suback #99 [0]")
+		l[len(l)-1].Topic = "u"
 		r.in(0, l...)
+		r.gets(1)
 		want := []string{"pubrec #1 0x10", "disconnect 0x82"}
 		if len(l) == 3 {
 			want = []string{"pubrec #1 0x10", "pubrec #2 0x10", "disconnect 0x93"}
@@ -146,6 +153,24 @@ func TestFullJournal(t *testing.T) {
 	r.Sync()
 	r.gets(0, "puback #2")
 	is(t, "the group", r.queue("g/#"), "xxxxxxxxx@b*")
+}
+
+// Br4: when there are no more numbers, nobody gets the message, and its answer does not wait.
+func TestNoNumbers(t *testing.T) {
+	r := with(t, nil)
+	for _, s := range store.Rewrite(nil, api.MaxSeq-1) {
+		wal.Open(r.d).Append(s)
+	}
+	r.Broker, _ = broker.New(rigBounds(), r.d, 0)
+	r.clients("a", "b")
+	r.subs(1, 1, "$share/g/#", "#")
+	r.in(0, publish("t", "x", 1, 1), publish("t", "y", 1, 2), publish("t", "z", 2, 3), publish("t", "w", 0, 0))
+	r.gets(1, "publish #1 t:x q1", "publish #2 t:x q1")
+	r.gets(0)
+	r.Sync()
+	r.gets(0, "puback #1", "puback #2 0x83", "pubrec #3 0x83")
+	r.in(0, publish("t", "y", 1, 2))
+	r.gets(0, "puback #2 0x83")
 }
 
 // Br4: an answer that is bad frees its number, when it is paid.

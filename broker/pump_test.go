@@ -210,6 +210,40 @@ func TestGroupDoesNotFit(t *testing.T) {
 	}
 }
 
+// Br1: behind all that happens, all that may goes out: each time, a message that does not fit is tried once more, and takes a number.
+func TestWhenIsPumped(t *testing.T) {
+	for what, x := range map[string]struct {
+		happen func(r *rig)
+		tries  int
+	}{
+		"nothing": {func(r *rig) {}, 0}, "Sync": {func(r *rig) { r.Sync() }, 1}, "Tick": {func(r *rig) { r.Tick() }, 1}, "Drop": {func(r *rig) { r.Drop(2) }, 1}, "Feed": {func(r *rig) { r.Feed(2, "") }, 1},
+		"Drain": {func(r *rig) { r.Broker.Drain(1, 0) }, 1}, "Drain of no number": {func(r *rig) { r.Broker.Drain(99, 0); r.Broker.Drain(-1, 1) }, 2}, "Drain of a connection that was never open": {func(r *rig) { r.Broker.Drain(5, 1) }, 1},
+		"Open": {func(r *rig) { r.Open(6) }, 0}, "Feed of none": {func(r *rig) { r.Feed(5, "\x00"); r.Feed(99, "\x00") }, 0},
+	} {
+		r := with(t, nil)
+		r.join(0, lasting("a", api.Prop{Id: 39, N: 20}))
+		r.join(1, lasting("b"))
+		r.Open(2)
+		r.in(0, subscribe(1, "$share/g/t"), subscribe(1, "u"))
+		r.in(1, publish("t", strings.Repeat("x", 20), 1, 1))
+		r.Sync()
+		before := r.next("a")
+		x.happen(r)
+		// One number is that of the message that fits, and two are those of tries behind it, and behind its acknowledgement.
+		if after := r.next("a"); after-before != x.tries+3 {
+			t.Errorf("%s: %d numbers were taken, want %d", what, after-before, x.tries+3)
+		}
+	}
+}
+
+// next is the number of a message that is sent to a client then, and acknowledged.
+func (r *rig) next(client string) int {
+	r.in(1, publish("u", "x", 1, 3))
+	id := r.lastId(client)
+	r.in(0, ack(api.Puback, id, 0))
+	return id
+}
+
 // lastId is the number of the last message in transit to a client.
 func (r *rig) lastId(client string) int {
 	if l := r.Flights(client); len(l) > 0 {

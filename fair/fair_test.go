@@ -175,6 +175,26 @@ func TestPresent(t *testing.T) {
 	is(t, "a is here", w, 2, true)
 }
 
+// Fi1: what waits for a client, or in a group, is enough to disturb the rest.
+func TestWaiting(t *testing.T) {
+	c := terms.Usual()
+	c.Out = 64
+	for _, filter := range []string{"t", "$share/g/t"} {
+		l := append(joined(connect("a"), connect("b")), feed(0, subscribe(1, filter), api.Packet{Kind: api.Subscribe, Id: 1, Subs: make([]api.Sub, 32)}, api.Packet{Kind: api.Subscribe, Id: 1, Subs: make([]api.Sub, 32)}))
+		w := with(t, c, append(l, feed(1, publish("x", 0, 0)))...)
+		is(t, filter+": full", w, 4, false)
+		if n := len(w.Broker().Flights("a")); n > 0 {
+			t.Errorf("%s: %d are in transit", filter, n)
+		}
+		w.Step(api.Event{Kind: api.EvDrain, N: 1 << 20})
+		is(t, filter+": not full", w, 2, true)
+		w.Step(feed(1, publish("x", 1, 1)))
+		w.Step(api.Event{Kind: api.EvSync})
+		w.Step(api.Event{Kind: api.EvDrop})
+		is(t, filter+": gone", w, map[string]int{"t": 2, "$share/g/t": 4}[filter], true)
+	}
+}
+
 // Fi1: so many rounds go by, but not more than 2^16.
 func TestDrive(t *testing.T) {
 	for rounds, want := range map[int]int{0: 0, -1: 0, math.MinInt: 0, 1: 1, 3: 3, 1 << 16: 1 << 16, 1<<16 + 1: 1 << 16, math.MaxInt: 1 << 16} {

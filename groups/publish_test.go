@@ -134,9 +134,21 @@ func TestFullJournal(t *testing.T) {
 	}
 }
 
+// Gs2: if there is room for the first of some records only, none is appended.
+func TestRoomForOne(t *testing.T) {
+	m := message("m", 1)
+	one := size(m, "g/#")
+	g, d := open(2*one - 1)
+	join(t, g, "g/# a", "h/# a")
+	publish(t, g, m, full, "g/#", "h/#")
+	journal(t, d, "", false)
+	publish(t, g, m, "", "h/#")
+	journal(t, d, "+h/#1", true)
+}
+
 // Gs2: a record that is too long has no room either.
 func TestTooLong(t *testing.T) {
-	g, _ := open(1 << 20)
+	g, d := open(1 << 20)
 	join(t, g, "g/# a", "h/# a")
 	m := message("m", 1)
 	most := 65536 - (size(m, "g/#") - 8)
@@ -144,16 +156,21 @@ func TestTooLong(t *testing.T) {
 	publish(t, g, m, "", "g/#")
 	m.Payload += "x"
 	publish(t, g, m, full, "h/#", "g/#")
+	// Of the record of another group, which has a longer key, there is too much by one.
+	m.Payload = m.Payload[1:]
+	join(t, g, "hh/# a")
+	publish(t, g, m, full, "h/#", "hh/#")
 	if len(g.Items("g/#")) != 1 || len(g.Items("h/#")) > 0 || g.Last() != 1 {
 		t.Errorf("Last() = %d", g.Last())
 	}
+	journal(t, d, "x/1 +g/#1", false)
 }
 
 // Gs2: how long a group's message waits at most.
 func TestWait(t *testing.T) {
 	const latest = 1 << 40
 	for _, x := range []struct{ wait, until, now, want int }{
-		{0, 0, 5, 0}, {0, 7, 5, 7}, {-3, 7, 5, 7}, {3, 0, 5, 8}, {3, 7, 5, 7}, {3, 8, 5, 8}, {3, 9, 5, 8}, {3, 2, 5, 2}, {3, -1, 5, 8}, {3, 0, -9, 3}, {3, 0, math.MinInt, 3}, {3, 9, -9, 3},
+		{0, 0, 5, 0}, {0, 7, 5, 7}, {-3, 7, 5, 7}, {3, 0, 5, 8}, {3, 7, 5, 7}, {3, 8, 5, 8}, {3, 9, 5, 8}, {3, 2, 5, 2}, {3, -1, 5, 8}, {3, 1, 5, 1}, {1, 0, 5, 6}, {1, 0, 0, 1}, {3, 0, -9, 3}, {3, 0, math.MinInt, 3}, {3, 9, -9, 3},
 		{3, 0, latest + 7, latest + 3}, {3, latest + 9, math.MaxInt, latest + 3}, {1<<32 - 1, 0, latest, latest + 1<<32 - 1}, {math.MaxInt, 5, 9, 5}, {math.MaxInt, 0, 9, math.MaxInt},
 	} {
 		for qos := range 2 {

@@ -33,7 +33,6 @@ func (g *Groups) Done(m api.Msg, client string) bool {
 	if !h.Done(m.Seq, client) {
 		return false
 	}
-	g.tidy(m.Group)
 	if h.ends(m.Seq) {
 		g.forget(api.OpDone, m.Group, m.Seq)
 	}

@@ -131,8 +131,8 @@ func TestTopics(t *testing.T) {
 	with := func(topic, payload string, n int) api.Packet {
 		return api.Packet{Kind: api.Publish, Topic: topic, Payload: payload, Props: []api.Prop{{Id: 35, N: n}}}
 	}
-	s := bytes(t, with("a", "1", 2), with("", "2", 2), with("b", "3", 2), with("", "4", 2), with("", "5", 1), api.Packet{Kind: api.Publish, Payload: "6"}, with("c", "7", 5), with("", "8", 5), with("", "9", 2), with("d", "10", 65535), with("", "11", 65535))
-	for in, want := range map[int]string{api.TrIn: "1a 2a 3b 4b 5 6 7 8 9b 10 11", api.TrOut: "1a 2a 3b 4b 5 6 7c 8c 9b 10d 11d"} {
+	s := bytes(t, publish("0", 0, 0), with("a", "1", 2), with("", "2", 2), with("b", "3", 2), with("", "4", 2), with("", "5", 1), api.Packet{Kind: api.Publish, Payload: "6"}, with("c", "7", 5), with("", "8", 5), with("", "9", 2), with("d", "10", 65535), with("", "11", 65535))
+	for in, want := range map[int]string{api.TrIn: "0t 1a 2a 3b 4b 5 6 7 8 9b 10 11", api.TrOut: "0t 1a 2a 3b 4b 5 6 7c 8c 9b 10d 11d"} {
 		l := []api.Trace{{Kind: in, Conn: 1, Bytes: s}}
 		got := ""
 		for _, x := range append(ledger.Came(terms.Usual(), l, 1), ledger.Went(terms.Usual(), l, 1)...) {

@@ -49,6 +49,10 @@ func TestHash(t *testing.T) {
 		t.Errorf("Hash of one without a name = %q", who)
 	}
 	here := []string{"a", "b", "c", "d", "b"}
+	// Of two that rank the same, the first one gets it.
+	if x, y := "khkghg", "suhavk"; pick.Rank("key", x) != pick.Rank("key", y) || pick.Hash([]string{x, y}, "key") != x || pick.Hash([]string{y, x}, "key") != y {
+		t.Errorf("Hash of those that rank the same = %q, %q", pick.Hash([]string{x, y}, "key"), pick.Hash([]string{y, x}, "key"))
+	}
 	got := map[string]int{}
 	for i := range 400 {
 		key := fmt.Sprint("key", i)

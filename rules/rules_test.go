@@ -171,7 +171,16 @@ func TestSize(t *testing.T) {
 		breaks(t, api.RuleSize, greeted(out(p))...)
 	}
 	breaks(t, api.RuleSize, in(connect()), out(api.Packet{Kind: api.Connack, Props: []api.Prop{{Id: 1}}}))
-	breaks(t, 0, in(connect()), out(api.Packet{Kind: api.Connack, Reason: 1}))
+	// Of two rules, it is the least one.
+	for _, x := range []struct{ kind, rule int }{{api.Puback, api.RuleAck}, {api.Pubrec, api.RuleAck}, {api.Pubcomp, api.RuleComp}, {api.Pubrel, api.RuleRel}, {api.Unsuback, api.RuleSize}, {api.Disconnect, api.RuleSize}} {
+		breaks(t, x.rule, append(welcome, out(large(of(x.kind, 7, 0))))...)
+	}
+}
+
+// large is a packet with a property that makes it large.
+func large(p api.Packet) api.Packet {
+	p.Props = []api.Prop{{Id: 31, S: "because"}}
+	return p
 }
 
 // Ru1: the topic of a Publish is told, by an alias that the client takes.

@@ -287,6 +287,20 @@ func TestAgainSkips(t *testing.T) {
 	next(t, s, 0, publish(named("g", 1), 1, 7, false))
 }
 
+// Se3: so it is with what was taken away with its group.
+func TestAgainWithoutGroups(t *testing.T) {
+	s := begun(9)
+	a, b := grouped("a", 1), named("b", 2)
+	give(t, s, a, 0, publish(a, 1, 1, false))
+	give(t, s, b, 0, publish(b, 2, 2, false))
+	back(s, 9)
+	if l := s.Back(); !same(l, []api.Msg{a}) {
+		t.Errorf("Back() = %+v", l)
+	}
+	next(t, s, 0, publish(b, 2, 2, true))
+	next(t, s, 0, none)
+}
+
 // Se3: as long as Next was not asked, there is no room, though all that is to be sent again came.
 func TestAgainRoom(t *testing.T) {
 	s := begun(3)
