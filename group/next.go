@@ -1,6 +1,7 @@
 package group
 
 import (
+	"iter"
 	"slices"
 
 	"towncrier/api"
@@ -18,7 +19,7 @@ func (g *Group) Next(free []string) (api.Msg, string, bool) {
 	if !slices.ContainsFunc(here, func(client string) bool { return slices.Contains(free, client) }) {
 		return api.Msg{}, "", false
 	}
-	for _, i := range g.candidates() {
+	for i := range g.candidates() {
 		if client := g.choose(i, here, free); client != "" && slices.Contains(free, client) {
 			return msg.Copy(g.items[i].Msg), client, true
 		}
@@ -26,21 +27,18 @@ func (g *Group) Next(free []string) (api.Msg, string, bool) {
 	return api.Msg{}, "", false
 }
 
-// candidates are the places of those that wait, but for those that can't be sent ahead of others.
-func (g *Group) candidates() []int {
+// candidates visits the places of those that wait, but for those that can't be sent ahead of others.
+func (g *Group) candidates() iter.Seq[int] {
 	if g.strategy == api.Hash {
-		return lane.Head(g.items)
+		return slices.Values(lane.Head(g.items))
 	}
-	var l []int
-	for i, x := range g.items {
-		if waits(x) {
-			l = append(l, i)
+	return func(visit func(int) bool) {
+		for i := range g.items {
+			if g.waits(i) && (!visit(i) || g.strategy == api.Exclusive) {
+				return
+			}
 		}
 	}
-	if g.strategy == api.Exclusive {
-		l = l[:min(len(l), 1)]
-	}
-	return l
 }
 
 // choose is to whom the message at a place goes, of those who are here, if it goes to one that is free.
@@ -77,8 +75,8 @@ func (g *Group) hash(i int, here []string) string {
 // counts are how many messages are under way to each of some clients.
 func (g *Group) counts(l []string) []int {
 	n := make([]int, len(l))
-	for _, x := range g.items {
-		if k := slices.Index(l, x.At); k >= 0 && !waits(x) {
+	for i := range g.items {
+		if k := slices.Index(l, g.items[i].At); k >= 0 && !g.waits(i) {
 			n[k]++
 		}
 	}

@@ -14,17 +14,17 @@ func (g *Groups) Next(free []string) (api.Msg, string, bool) {
 
 // Again tells whether a message may have been sent already.
 func (g *Groups) Again(m api.Msg) bool {
-	for _, x := range g.Items(m.Group) {
-		if x.Msg.Seq == m.Seq {
-			return x.Again
-		}
-	}
-	return false
+	return g.of(m.Group).marks[m.Seq].again
 }
 
 // Sent is that a message of a group went to a client; whether it may.
 func (g *Groups) Sent(m api.Msg, client string) bool {
-	return g.of(m.Group).Sent(m.Seq, client)
+	h := g.of(m.Group)
+	if !h.Sent(m.Seq, client) {
+		return false
+	}
+	h.again(m.Seq)
+	return true
 }
 
 // Done is that it came there; whether it was there.
