@@ -114,12 +114,22 @@ func TestNext(t *testing.T) {
 	comes(t, c, api.Publish)
 }
 
+// none are the terms of a connection without a client.
+var none = api.Terms{Packet: 1<<28 - 1}
+
 // Cn1: the client and its terms.
 func TestBegin(t *testing.T) {
-	c := opened()
-	if c.Client() != "" || c.Terms() != (api.Terms{}) || c.Closed() {
-		t.Errorf("a new connection has %q, %+v", c.Client(), c.Terms())
+	for _, now := range []int{0, 3, -1, 1 << 40, math.MaxInt, math.MinInt} {
+		c := conn.New(api.Config{Packet: 100, Aliases: 3, Out: 20}, now)
+		if c.Client() != "" || c.Terms() != none || c.Closed() {
+			t.Errorf("a new connection has %q, %+v", c.Client(), c.Terms())
+		}
+		c.Close()
+		if c.Client() != "" || c.Terms() != none || !c.Closed() {
+			t.Errorf("a new connection, closed, has %q, %+v", c.Client(), c.Terms())
+		}
 	}
+	c := opened()
 	a := api.Terms{Expiry: 7, Receive: 3, Packet: 100, Aliases: 2, Keep: 5, Problem: true}
 	c.Begin("me", a)
 	if c.Client() != "me" || c.Terms() != a {

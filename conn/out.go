@@ -15,7 +15,7 @@ type answer struct {
 
 // Send lets a packet go out; whether it does.
 func (c *Conn) Send(p api.Packet) bool {
-	if c.Closed() || !packet.Fits(p, c.most) {
+	if c.Closed() || !packet.Fits(p, c.terms.Packet) {
 		return false
 	}
 	bytes, err := packet.Encode(c.shorter(p))
@@ -28,7 +28,7 @@ func (c *Conn) Send(p api.Packet) bool {
 
 // shorter is a packet as it goes out: a Publish with an alias, if it may have one.
 func (c *Conn) shorter(p api.Packet) api.Packet {
-	if p.Kind != api.Publish || p.Topic == "" || c.terms.Aliases <= 0 || !packet.Fits(named(p, 1), c.most) {
+	if p.Kind != api.Publish || p.Topic == "" || c.terms.Aliases <= 0 || !packet.Fits(named(p, 1), c.terms.Packet) {
 		return p
 	}
 	topic, n := c.tells.Name(p.Topic)
