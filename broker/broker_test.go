@@ -261,6 +261,47 @@ func TestOpen(t *testing.T) {
 	}
 }
 
+// Br1: however a connection ends, it has no client any more; its bytes and the session of the client stay.
+func TestClientOfEnded(t *testing.T) {
+	const told = "connack 33=8 39=1024 34=4"
+	for name, x := range map[string]struct {
+		ends func(r *rig)
+		want []string // what goes out on it, all told
+	}{
+		"a break":                    {func(r *rig) { r.Drop(1) }, []string{told}},
+		"bytes that are no packet":   {func(r *rig) { r.Feed(1, "\x00") }, []string{told, "disconnect 0x81"}},
+		"a Disconnect":               {func(r *rig) { r.in(1, disconnect(0)) }, []string{told}},
+		"a Disconnect with the will": {func(r *rig) { r.in(1, disconnect(api.WithWill)) }, []string{told}},
+		"a second Connect":           {func(r *rig) { r.in(1, lasting("a")) }, []string{told, "disconnect 0x82"}},
+		"no topic":                   {func(r *rig) { r.in(1, publish("a/#", "", 0, 0)) }, []string{told, "disconnect 0x90"}},
+		"silence":                    {func(r *rig) { r.Tick(); r.Tick() }, []string{told, "disconnect 0x8d"}},
+		"another connection":         {func(r *rig) { r.join(2, lasting("a")) }, []string{told, "disconnect 0x8e"}},
+	} {
+		r := with(t, nil)
+		p := lasting("a")
+		p.Keep = 1
+		r.Open(1)
+		r.in(1, p)
+		is(t, "Client(1) ahead of "+name, r.Client(1), "a")
+		x.ends(r)
+		is(t, "IsOpen(1) behind "+name, r.IsOpen(1), false)
+		is(t, "Client(1) behind "+name, r.Client(1), "")
+		is(t, "clients behind "+name, strings.Join(r.Clients(), " "), "a")
+		r.gets(1, x.want...)
+		is(t, "Client(1) of no bytes, behind "+name, r.Client(1), "")
+		r.join(1, lasting("a"))
+		is(t, "Client(1) back from "+name, r.Client(1), "a")
+		is(t, "Client(2) back from "+name, r.Client(2), "")
+	}
+	// The Connack of this one does not fit, so it ends as soon as it has a client, whose session stays.
+	r := with(t, nil)
+	r.Open(1)
+	r.in(1, lasting("a", api.Prop{Id: 39, N: 4}))
+	if r.IsOpen(1) || r.Client(1) != "" || strings.Join(r.Clients(), " ") != "a" {
+		t.Errorf("behind a Connack that does not fit: %v, %q, %q", r.IsOpen(1), r.Client(1), r.Clients())
+	}
+}
+
 // Br1: when bytes are gone, what waited for room goes out; whatever the number is.
 func TestDrainPumps(t *testing.T) {
 	for _, k := range []int{0, 1, 7, -1, 99} {

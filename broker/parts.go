@@ -14,9 +14,13 @@ func (b *Broker) IsOpen(k int) bool {
 	return !b.at(k).Closed()
 }
 
-// Client is the client of a connection.
+// Client is the client of an open connection, nothing if it has none yet.
 func (b *Broker) Client(k int) string {
-	return b.at(k).Client()
+	c := b.at(k)
+	if c.Closed() {
+		return ""
+	}
+	return c.Client()
 }
 
 // Out are the bytes that go out on a connection.
