@@ -62,6 +62,14 @@ func breaks(t *testing.T, rule int, l ...api.Seen) {
 	}
 }
 
+// closes fails the test unless what is Bad does not end the connection, and no packet breaks a rule.
+func closes(t *testing.T, l []api.Seen) {
+	t.Helper()
+	if rule, at := rules.Check(l); rule != api.RuleClose || at != len(l) || rules.Clean(l) {
+		t.Errorf("Check(%+v) = %d, %d", l, rule, at)
+	}
+}
+
 // Ru1: the first one is a Connack; the chapter's example is a Pingresp.
 func TestFirst(t *testing.T) {
 	breaks(t, 0)
@@ -241,9 +249,7 @@ func TestLast(t *testing.T) {
 // Ru1: bytes that are no packet end the connection.
 func TestClose(t *testing.T) {
 	for _, l := range [][]api.Seen{{bad()}, greeted(bad()), greeted(bad(), out(of(api.Disconnect, 0, 0x81))), greeted(shut(), bad()), greeted(bad(), shut(), bad()), {bad(), out(of(api.Connack, 0, 0x81))}} {
-		if rule, at := rules.Check(l); rule != api.RuleClose || at != len(l) || rules.Clean(l) {
-			t.Errorf("Check(%+v) = %d, %d", l, rule, at)
-		}
+		closes(t, l)
 		breaks(t, 0, append(l, shut())...)
 		breaks(t, 0, append(l, shut(), in(publish(1, 1)))...)
 	}
@@ -253,6 +259,44 @@ func TestClose(t *testing.T) {
 	}
 	// What a Connect says behind them does not count.
 	breaks(t, 0, bad(), in(connect(api.Prop{Id: 39, N: 5}, api.Prop{Id: 33, N: 1})), out(of(api.Connack, 0, 0)), out(publish(1, 1)), out(publish(1, 2)), shut())
+}
+
+// Ru1: what is neither In nor without a kind is sent, also if it is Bad, and is held against the rules.
+func TestBadIsSent(t *testing.T) {
+	marked := func(p api.Packet) api.Seen { return api.Seen{Bad: true, P: p} }
+	breaks(t, api.RuleFirst, marked(of(api.Pingresp, 0, 0)))
+	breaks(t, api.RulePing, greeted(marked(of(api.Pingresp, 0, 0)))...)
+	breaks(t, api.RuleAck, greeted(marked(of(api.Puback, 1, 0)))...)
+	breaks(t, api.RuleSize, greeted(marked(of(16, 0, 0)))...)
+	breaks(t, api.RuleKind, greeted(marked(of(api.Pingreq, 0, 0)))...)
+	breaks(t, api.RuleLast, greeted(bad(), shut(), marked(of(api.Disconnect, 0, 0)))...)
+	if rule, at := rules.Check(greeted(marked(of(api.Puback, 1, 0)), shut())); rule != api.RuleAck || at != 2 {
+		t.Errorf("Check = %d, %d", rule, at)
+	}
+	// It counts as sent,
+	breaks(t, api.RuleLast, in(connect()), marked(of(api.Connack, 0, 0)), out(of(api.Connack, 0, 0)))
+	breaks(t, api.RuleId, greeted(marked(publish(1, 7)), out(publish(1, 7)))...)
+	breaks(t, api.RulePing, greeted(in(of(api.Pingreq, 0, 0)), marked(of(api.Pingresp, 0, 0)), out(of(api.Pingresp, 0, 0)))...)
+	breaks(t, api.RuleLast, greeted(marked(of(api.Disconnect, 0, 0)), out(of(api.Disconnect, 0, 0)))...)
+	// and as Bad: the connection is to be closed behind it, and what a Connect says does not count any more.
+	for _, l := range [][]api.Seen{{in(connect()), marked(of(api.Connack, 0, 0))}, greeted(marked(publish(0, 0))), greeted(marked(publish(1, 7)), in(of(api.Puback, 7, 0)), out(publish(1, 7)))} {
+		closes(t, l)
+		breaks(t, 0, append(l, shut())...)
+	}
+	breaks(t, 0, marked(of(api.Connack, 0, 0)), in(connect(api.Prop{Id: 33, N: 1})), out(publish(1, 1)), out(publish(1, 2)), shut())
+}
+
+// Ru1: what is Bad and In is no packet; what is Bad without being In or having a kind is the end, but does not follow itself.
+func TestBadIsNotSent(t *testing.T) {
+	arrived := func(p api.Packet) api.Seen { return api.Seen{In: true, Bad: true, P: p} }
+	closes(t, greeted(arrived(of(api.Pingreq, 0, 0))))
+	breaks(t, api.RulePing, greeted(arrived(of(api.Pingreq, 0, 0)), out(of(api.Pingresp, 0, 0)))...)
+	breaks(t, 0, arrived(connect(api.Prop{Id: 39, N: 1})), out(of(api.Connack, 0, 0)), shut())
+	ended := api.Seen{Bad: true}
+	closes(t, []api.Seen{ended})
+	closes(t, greeted(bad(), shut(), ended))
+	breaks(t, 0, greeted(ended, shut())...)
+	breaks(t, api.RuleLast, greeted(ended, out(of(api.Disconnect, 0, 0)))...)
 }
 
 // Ru1: only a server's packets go out.

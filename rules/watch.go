@@ -36,8 +36,8 @@ type watch struct {
 	size      int
 	aliases   int
 	asked     bool // a Connect arrived
-	bad       bool // bytes arrived that are no packet,
-	shut      bool // and behind that the connection was closed
+	bad       bool // Bad was seen,
+	shut      bool // and behind the last one the connection was closed
 	over      bool // nothing may go out any more
 	greeted   bool // a Connack went out,
 	welcome   bool // with 0,
